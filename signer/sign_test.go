@@ -358,3 +358,21 @@ func TestSignWhileOthersAreOpened(t *testing.T) {
 		signed(t, what, s, rising(leaf), leaf)
 	}
 }
+
+// P10.1 to P10.4: a second signer is opened on the disk and used in the first one's place: it goes on behind the first one's leaves, and the first one goes on to tell what it told.
+func TestSecondSigner(t *testing.T) {
+	for _, area := range []int{4, 9} {
+		d, first := formatted(t, 20, area, mixed())
+		signed(t, "the first signer", first, rising(0), 0)
+		signed(t, "the first signer", first, rising(1), 1)
+		second := opened(t, "the second signer", d)
+		for leaf := 2; leaf < 6; leaf++ {
+			checkSigned(t, "the second signer", second, signed(t, "the second signer", second, rising(leaf), leaf), mixed(), rising(leaf), leaf)
+			checkTold(t, "the first signer, unused", first, 2, false)
+			checkTold(t, "a third signer", opened(t, "a third signer", d), leaf+1, false)
+		}
+		if first.Root() != second.Root() {
+			t.Error("both have roots of their own")
+		}
+	}
+}
